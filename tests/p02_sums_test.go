@@ -160,13 +160,7 @@ func TestCrcCountsNoughts(t *testing.T) {
 }
 
 func TestCrcOfLongTexts(t *testing.T) {
-	long := make([]byte, 1<<20+3)
-	n := uint32(1)
-	for i := range long {
-		n = n*1664525 + 1013904223
-		long[i] = byte(n >> 24)
-	}
-	checkCrc(t, string(long))
+	checkCrc(t, mixedBytes(1, 1<<20+3))
 	checkCrc(t, strings.Repeat("\x80", 1<<20))
 	checkCrc(t, strings.Repeat("€", 1<<19))
 	checkCrc(t, strings.Repeat("123456789", 1<<17))
